@@ -3,45 +3,13 @@ package tape_test
 import (
 	"math"
 	"slices"
-	"strconv"
 	"strings"
 	"testing"
 
 	"lotdrawer/api"
 	"lotdrawer/tape"
+	"lotdrawer/tapetest"
 )
-
-// tapeOf returns the bits of a string of digits 0 and 1; spaces only separate groups.
-func tapeOf(digits string) []bool {
-	var t []bool
-	for _, digit := range strings.ReplaceAll(digits, " ", "") {
-		t = append(t, digit == '1')
-	}
-	return t
-}
-
-// digitsOf returns number as so many binary digits.
-func digitsOf(number, width int) string {
-	if width == 0 {
-		return ""
-	}
-	digits := strconv.FormatInt(int64(number), 2)
-	return strings.Repeat("0", width-len(digits)) + digits
-}
-
-// allTapes returns every tape of a length, as digits.
-func allTapes(length int) []string {
-	var all []string
-	for number := range 1 << length {
-		all = append(all, digitsOf(number, length))
-	}
-	return all
-}
-
-// withSpare returns t with spare capacity that a function must neither read nor write.
-func withSpare(t []bool, spare []bool) []bool {
-	return append(slices.Clone(t), spare...)[:len(t)]
-}
 
 func TestBelow(t *testing.T) {
 	for _, c := range []struct {
@@ -88,7 +56,7 @@ func TestBelow(t *testing.T) {
 		{strings.Repeat("1", 79), api.MaxCount - 1, 0, 0, api.ErrEnd},
 		{strings.Repeat("1", 40) + "0" + strings.Repeat("1", 39), 1<<39 + 1, 1<<39 - 1, 80, api.OK},
 	} {
-		number, end, errno := tape.Below(tapeOf(c.digits), c.n)
+		number, end, errno := tape.Below(tapetest.Of(c.digits), c.n)
 		if number != c.number || end != c.end || errno != c.errno {
 			t.Errorf("Below(%s, %d): got %d, %d and error %d, want %d, %d and error %d",
 				c.digits, c.n, number, end, errno, c.number, c.end, c.errno)
@@ -107,14 +75,14 @@ func TestBelowFindsFirst(t *testing.T) {
 			digits := ""
 			for rejected := range 4 {
 				end := (rejected + 1) * width
-				got, used, errno := tape.Below(tapeOf(digits+digitsOf(number, width)+"0110"), n)
+				got, used, errno := tape.Below(tapetest.Of(digits+tapetest.Digits(number, width)+"0110"), n)
 				if got != number || used != end || errno != api.OK {
 					t.Errorf("n = %d, %d after %s: got %d, %d and error %d", n, number, digits, got, used, errno)
 				}
 				if n == 1<<width {
 					break // there is nothing to reject
 				}
-				digits += digitsOf(n+(rejected*7)%(1<<width-n), width)
+				digits += tapetest.Digits(n+(rejected*7)%(1<<width-n), width)
 			}
 		}
 	}
@@ -123,11 +91,11 @@ func TestBelowFindsFirst(t *testing.T) {
 // TestBelowIsUniform counts over all tapes of one length: each number comes from equally many.
 func TestBelowIsUniform(t *testing.T) {
 	const length = 12
-	tapes := allTapes(length)
+	tapes := tapetest.All(length)
 	for n := 1; n <= 16; n++ {
 		counts := make([]int, n)
 		for _, digits := range tapes {
-			number, _, errno := tape.Below(tapeOf(digits), n)
+			number, _, errno := tape.Below(tapetest.Of(digits), n)
 			if errno == api.OK {
 				counts[number]++
 			}
@@ -170,7 +138,7 @@ func TestMany(t *testing.T) {
 		{"", []int{0, 2}, nil, 0, api.ErrRange},
 		{"", []int{2, 0}, nil, 0, api.ErrEnd},
 	} {
-		numbers, end, errno := tape.Many(tapeOf(c.digits), c.n)
+		numbers, end, errno := tape.Many(tapetest.Of(c.digits), c.n)
 		if !slices.Equal(numbers, c.numbers) || end != c.end || errno != c.errno {
 			t.Errorf("Many(%s, %v): got %v, %d and error %d, want %v, %d and error %d",
 				c.digits, c.n, numbers, end, errno, c.numbers, c.end, c.errno)
@@ -183,8 +151,8 @@ func TestManyIsUniform(t *testing.T) {
 	n := []int{3, 2, 5, 1, 4}
 	const length = 2 + 1 + 3 + 0 + 2
 	counts := map[[5]int]int{}
-	for _, digits := range allTapes(length) {
-		numbers, end, errno := tape.Many(tapeOf(digits), n)
+	for _, digits := range tapetest.All(length) {
+		numbers, end, errno := tape.Many(tapetest.Of(digits), n)
 		if errno != api.OK {
 			continue
 		}
@@ -227,7 +195,7 @@ func TestFair(t *testing.T) {
 		{"00 1", false, 0, api.ErrEnd},
 		{"11 00 11 00 1", false, 0, api.ErrEnd},
 	} {
-		bit, end, errno := tape.Fair(tapeOf(c.digits))
+		bit, end, errno := tape.Fair(tapetest.Of(c.digits))
 		if bit != c.bit || end != c.end || errno != c.errno {
 			t.Errorf("Fair(%s): got %t, %d and error %d, want %t, %d and error %d",
 				c.digits, bit, end, errno, c.bit, c.end, c.errno)
@@ -239,8 +207,8 @@ func TestFair(t *testing.T) {
 func TestFairIsUnbiased(t *testing.T) {
 	const length = 9
 	var trues, falses [length + 1]int
-	for _, digits := range allTapes(length) {
-		bit, end, errno := tape.Fair(tapeOf(digits))
+	for _, digits := range tapetest.All(length) {
+		bit, end, errno := tape.Fair(tapetest.Of(digits))
 		if errno != api.OK {
 			continue
 		}
@@ -261,9 +229,9 @@ func TestFairIsUnbiased(t *testing.T) {
 
 func TestArgumentsAreUntouched(t *testing.T) {
 	for _, digits := range []string{"", "1", "11", "110", "110101", "111111111", "0110100"} {
-		bits := tapeOf(digits)
-		for _, spare := range [][]bool{tapeOf("0101"), tapeOf("1010")} {
-			padded := withSpare(bits, spare)
+		bits := tapetest.Of(digits)
+		for _, spare := range [][]bool{tapetest.Of("0101"), tapetest.Of("1010")} {
+			padded := tapetest.WithSpare(bits, spare)
 			for _, n := range []int{0, 1, 2, 3, 6} {
 				whole := []int{n, 2, 2, 1, 0}
 				limits := whole[:2]
