@@ -9,21 +9,14 @@ import (
 	"lotdrawer/api"
 	"lotdrawer/combo"
 	"lotdrawer/pool"
+	"lotdrawer/pooltest"
 )
 
-// span returns the numbers from low to high-1 in order.
-func span(low, high int) []int {
-	var l []int
-	for number := low; number < high; number++ {
-		l = append(l, number)
-	}
-	return l
-}
-
-// of returns a reservoir; nothing of it is checked.
-func of(room, came int, has ...int) api.Pool {
-	return api.Pool{Room: room, Came: came, Has: has}
-}
+// Short names for the tables.
+var (
+	of   = pooltest.Of
+	span = pooltest.Span
+)
 
 // valid returns reservoirs at and around all the limits.
 func valid() []api.Pool {
@@ -48,48 +41,10 @@ func valid() []api.Pool {
 	}
 }
 
-// invalid returns reservoirs that break one rule each, or several.
-func invalid() []api.Pool {
-	return []api.Pool{
-		{},
-		of(0, 1),
-		of(0, 1, 7),
-		of(-1, 0),
-		of(-1, 1, 7),
-		of(math.MinInt, 0),
-		of(401, 0),
-		of(401, 1, 7),
-		of(401, 401, span(0, 401)...),
-		of(math.MaxInt, 0),
-		of(2, -1),
-		of(2, -1, 7),
-		of(2, math.MinInt),
-		of(2, api.MaxCount+1, 7, 8),
-		of(2, math.MaxInt, 7, 8),
-		of(2, 0, 7),
-		of(2, 1),
-		of(2, 1, 7, 8),
-		of(2, 2),
-		of(2, 2, 7),
-		of(2, 2, 7, 8, 9),
-		of(2, 3, 7),
-		of(2, 3, 7, 8, 9),
-		of(2, api.MaxCount),
-		of(400, 400, span(0, 399)...),
-		of(400, 401, span(0, 401)...),
-		of(0, -1),
-		of(401, api.MaxCount+1, 7),
-	}
-}
-
-func equal(a, b api.Pool) bool {
-	return a.Room == b.Room && a.Came == b.Came && slices.Equal(a.Has, b.Has)
-}
-
 // check reports a result that isn't the one expected, or that isn't valid although there is no error.
 func check(t *testing.T, what string, got api.Pool, errno api.Errno, want api.Pool, wantErrno api.Errno) {
 	t.Helper()
-	if !equal(got, want) || errno != wantErrno {
+	if !pooltest.Equal(got, want) || errno != wantErrno {
 		t.Errorf("%s: got %v and error %d, want %v and error %d", what, got, errno, want, wantErrno)
 	}
 	if errno == api.OK && !pool.Right(got) {
@@ -103,7 +58,7 @@ func TestRight(t *testing.T) {
 			t.Errorf("%v: not valid", p)
 		}
 	}
-	for _, p := range invalid() {
+	for _, p := range pooltest.Invalid() {
 		if pool.Right(p) {
 			t.Errorf("%v: valid", p)
 		}
@@ -127,7 +82,7 @@ func TestNeed(t *testing.T) {
 			t.Errorf("%v: got %d and error %d, want %d", p, got, errno, p.Came+1)
 		}
 	}
-	for _, p := range invalid() {
+	for _, p := range pooltest.Invalid() {
 		if got, errno := pool.Need(p); got != 0 || errno != api.ErrForm {
 			t.Errorf("%v: got %d and error %d", p, got, errno)
 		}
@@ -177,7 +132,7 @@ func TestAdd(t *testing.T) {
 		got, errno := pool.Add(c.p, c.x, c.draw)
 		check(t, c.what, got, errno, c.want, c.errno)
 	}
-	for _, p := range invalid() {
+	for _, p := range pooltest.Invalid() {
 		for _, draw := range []int{0, 1, -1, math.MaxInt} {
 			got, errno := pool.Add(p, 9, draw)
 			check(t, "invalid reservoir", got, errno, api.Pool{}, api.ErrForm)
@@ -247,28 +202,12 @@ func TestAll(t *testing.T) {
 	}
 }
 
-// choices calls f with every list of choices in which the one at i is below limits[i].
-func choices(limits []int, f func(draws []int)) {
-	count := 1
-	for _, limit := range limits {
-		count *= limit
-	}
-	for number := range count {
-		draws := make([]int, len(limits))
-		for i, limit := range limits {
-			draws[i] = number % limit
-			number /= limit
-		}
-		f(draws)
-	}
-}
-
 // TestAllIsAddRepeated compares All with one Add after the other, for all choices.
 func TestAllIsAddRepeated(t *testing.T) {
 	l := []int{5, 3, 5, 9, 1, 2}
 	for room := 1; room <= 7; room++ {
 		for n := range len(l) + 1 {
-			choices(span(1, n+1), func(draws []int) {
+			pooltest.Choices(span(1, n+1), func(draws []int) {
 				want, wantErrno := pool.New(room)
 				for i, draw := range draws {
 					want, wantErrno = pool.Add(want, l[i], draw)
@@ -280,22 +219,11 @@ func TestAllIsAddRepeated(t *testing.T) {
 	}
 }
 
-// countSample counts the sample of p, in whichever order it is.
-func countSample(counts map[string]int, p api.Pool) {
-	counts[fmt.Sprint(slices.Sorted(slices.Values(p.Has)))]++
-}
-
 // checkUniform reports counts that are not those of all subsets of n elements with k of them, each as often as the others.
-func checkUniform(t *testing.T, what string, counts map[string]int, n, k, all int) {
+func checkUniform(t *testing.T, counts map[string]int, n, k int) {
 	t.Helper()
-	subsets, errno := combo.Of(n, k)
-	if errno != api.OK || len(counts) != subsets {
-		t.Errorf("%s: got %d samples, want %d", what, len(counts), subsets)
-	}
-	for sample, count := range counts {
-		if count*subsets != all {
-			t.Errorf("%s: got %s %d times out of %d", what, sample, count, all)
-		}
+	if subsets, errno := combo.Of(n, k); errno != api.OK || !pooltest.Uniform(counts, subsets) {
+		t.Errorf("%d of %d: got the samples %v", k, n, counts)
 	}
 }
 
@@ -303,16 +231,15 @@ func checkUniform(t *testing.T, what string, counts map[string]int, n, k, all in
 func TestUniform(t *testing.T) {
 	for n := 1; n <= 7; n++ {
 		for room := 1; room <= n; room++ {
-			counts, all := map[string]int{}, 0
-			choices(span(1, n+1), func(draws []int) {
+			counts := map[string]int{}
+			pooltest.Choices(span(1, n+1), func(draws []int) {
 				p, errno := pool.All(room, span(10, 10+n), draws)
 				if errno != api.OK {
 					t.Fatalf("room %d, choices %v: error %d", room, draws, errno)
 				}
-				countSample(counts, p)
-				all++
+				counts[pooltest.Sample(p)]++
 			})
-			checkUniform(t, fmt.Sprintf("%d of %d", room, n), counts, n, room, all)
+			checkUniform(t, counts, n, room)
 		}
 	}
 }
@@ -364,7 +291,7 @@ func TestSmaller(t *testing.T) {
 		got, errno := pool.Smaller(c.p, c.room, c.draws)
 		check(t, c.what, got, errno, c.want, c.errno)
 	}
-	for _, p := range invalid() {
+	for _, p := range pooltest.Invalid() {
 		for _, room := range []int{1, 0, -1, 2, 401} {
 			got, errno := pool.Smaller(p, room, nil)
 			check(t, "invalid reservoir", got, errno, api.Pool{}, api.ErrForm)
@@ -380,8 +307,8 @@ func TestSmallerIsUniform(t *testing.T) {
 		for left := room; left > smaller; left-- {
 			limits = append(limits, left)
 		}
-		counts, all := map[string]int{}, 0
-		choices(limits, func(draws []int) {
+		counts := map[string]int{}
+		pooltest.Choices(limits, func(draws []int) {
 			p, errno := pool.All(room, span(10, 10+n), draws[:n])
 			if errno == api.OK {
 				p, errno = pool.Smaller(p, smaller, draws[n:])
@@ -389,10 +316,9 @@ func TestSmallerIsUniform(t *testing.T) {
 			if errno != api.OK {
 				t.Fatalf("%d of %d, choices %v: error %d", smaller, n, draws, errno)
 			}
-			countSample(counts, p)
-			all++
+			counts[pooltest.Sample(p)]++
 		})
-		checkUniform(t, fmt.Sprintf("%d of %d", smaller, n), counts, n, smaller, all)
+		checkUniform(t, counts, n, smaller)
 	}
 }
 
@@ -443,7 +369,7 @@ func TestArguments(t *testing.T) {
 		alone := c.p
 		alone.Has = slices.Clip(slices.Clone(c.p.Has))
 		want, wantText := everything(alone, slices.Clip(slices.Clone(c.draws)))
-		if !slices.EqualFunc(got, want, equal) || gotText != wantText {
+		if !slices.EqualFunc(got, want, pooltest.Equal) || gotText != wantText {
 			t.Errorf("%v: the spare capacity changes the results", c.p)
 		}
 		for i, result := range got {
