@@ -9,58 +9,20 @@ import (
 	"lotdrawer/alias"
 	"lotdrawer/api"
 	"lotdrawer/pooltest"
+	"lotdrawer/weighttest"
 )
 
 const maxWeight = 1 << 20
 
-// same returns n equal weights.
-func same(weight, n int) []int {
-	return slices.Repeat([]int{weight}, n)
-}
-
-// scattered returns n weights without a pattern, each below limit.
-func scattered(seed uint64, n, limit int) []int {
-	weights := make([]int, n)
-	for i := range weights {
-		seed = seed*6364136223846793005 + 1442695040888963407
-		weights[i] = int(seed>>33) % limit
-	}
-	return weights
-}
-
 // each calls f with every list of up to 4 weights below 7, and of 5 and 6 weights below 4, that has a table.
 func each(f func(weights []int)) {
 	for n, limit := range []int{0, 7, 7, 7, 7, 4, 4} {
-		pooltest.Choices(same(limit, n), func(weights []int) {
+		pooltest.Choices(weighttest.Same(limit, n), func(weights []int) {
 			if n > 0 && slices.Max(weights) > 0 {
 				f(weights)
 			}
 		})
 	}
-}
-
-// many returns long lists of weights, and those with the largest weights.
-func many() [][]int {
-	l := [][]int{
-		same(maxWeight, 400),
-		same(1, 400),
-		append(same(0, 399), maxWeight),
-		append([]int{maxWeight}, same(0, 399)...),
-		append(same(maxWeight, 399), 0),
-		append(same(maxWeight, 399), maxWeight-1),
-		append([]int{1}, same(maxWeight, 399)...),
-		pooltest.Span(0, 400),
-		pooltest.Span(1, 401),
-	}
-	falling := pooltest.Span(0, 400)
-	slices.Reverse(falling)
-	l = append(l, falling)
-	for i, limit := range []int{2, 3, 10, 1000, maxWeight + 1} {
-		for _, n := range []int{7, 50, 399, 400} {
-			l = append(l, scattered(uint64(1000*i+n), n, limit))
-		}
-	}
-	return l
 }
 
 // model builds the table step by step as the document words it.
@@ -114,12 +76,12 @@ func TestSum(t *testing.T) {
 		{"the largest weight", []int{maxWeight}, maxWeight, api.OK},
 		{"the largest weight among others", []int{1, maxWeight, 2}, maxWeight + 3, api.OK},
 		{"400 weights", pooltest.Span(0, 400), 79800, api.OK},
-		{"the largest sum", same(maxWeight, 400), 400 * maxWeight, api.OK},
-		{"only the last of 400", append(same(0, 399), 1), 1, api.OK},
+		{"the largest sum", weighttest.Same(maxWeight, 400), 400 * maxWeight, api.OK},
+		{"only the last of 400", append(weighttest.Same(0, 399), 1), 1, api.OK},
 		{"no weights", nil, 0, api.ErrRange},
 		{"no weights, not nil", []int{}, 0, api.ErrRange},
-		{"too many", same(1, 401), 0, api.ErrRange},
-		{"too many by far", same(1, 1000), 0, api.ErrRange},
+		{"too many", weighttest.Same(1, 401), 0, api.ErrRange},
+		{"too many by far", weighttest.Same(1, 1000), 0, api.ErrRange},
 		{"below 0", []int{-1}, 0, api.ErrRange},
 		{"the first below 0", []int{-1, 2, 3}, 0, api.ErrRange},
 		{"the last below 0", []int{2, 3, -1}, 0, api.ErrRange},
@@ -129,11 +91,11 @@ func TestSum(t *testing.T) {
 		{"the last too large", []int{0, 0, maxWeight + 1}, 0, api.ErrRange},
 		{"the largest", []int{1, math.MaxInt, 1}, 0, api.ErrRange},
 		{"a sum that would overflow", []int{math.MaxInt, math.MaxInt, 3}, 0, api.ErrRange},
-		{"the last of 400 too large", append(same(0, 399), maxWeight+1), 0, api.ErrRange},
+		{"the last of 400 too large", append(weighttest.Same(0, 399), maxWeight+1), 0, api.ErrRange},
 		{"one weight of 0", []int{0}, 0, api.ErrNone},
 		{"weights of 0", []int{0, 0, 0}, 0, api.ErrNone},
-		{"400 weights of 0", same(0, 400), 0, api.ErrNone},
-		{"ErrRange of too many before ErrNone", same(0, 401), 0, api.ErrRange},
+		{"400 weights of 0", weighttest.Same(0, 400), 0, api.ErrNone},
+		{"ErrRange of too many before ErrNone", weighttest.Same(0, 401), 0, api.ErrRange},
 		{"ErrRange of a weight before ErrNone", []int{-1, 1}, 0, api.ErrRange},
 		{"ErrRange of the last weight before ErrNone", []int{0, 0, -1}, 0, api.ErrRange},
 	} {
@@ -189,7 +151,7 @@ func checkModel(t *testing.T, weights []int) {
 
 func TestMakeIsAsDescribed(t *testing.T) {
 	each(func(weights []int) { checkModel(t, weights) })
-	for _, weights := range many() {
+	for _, weights := range weighttest.Many(maxWeight) {
 		checkModel(t, weights)
 	}
 }
@@ -264,7 +226,7 @@ func TestProportional(t *testing.T) {
 
 // TestManyProportional is TestProportional for tables with too many levels to go through them one by one.
 func TestManyProportional(t *testing.T) {
-	for _, weights := range many() {
+	for _, weights := range weighttest.Many(maxWeight) {
 		sum, errno := alias.Sum(weights)
 		l, makeErrno := alias.Make(weights)
 		if errno != api.OK || makeErrno != api.OK || len(l) != len(weights) {
@@ -294,7 +256,7 @@ func checkCounts(t *testing.T, weights, counts []int) {
 
 // TestArguments: no argument is changed, its spare capacity is neither read nor changed, and the results share no memory.
 func TestArguments(t *testing.T) {
-	for _, weights := range [][]int{nil, {0}, {5}, {1, 3}, {3, 0, 3, 0, 4}, {2, -1}, same(1, 400), same(1, 401), same(0, 400)} {
+	for _, weights := range [][]int{nil, {0}, {5}, {1, 3}, {3, 0, 3, 0, 4}, {2, -1}, weighttest.Same(1, 400), weighttest.Same(1, 401), weighttest.Same(0, 400)} {
 		wantSum, wantErrno := alias.Sum(slices.Clip(slices.Clone(weights)))
 		want, _ := alias.Make(slices.Clip(slices.Clone(weights)))
 		all := slices.Concat(weights, []int{1, -1, 7})

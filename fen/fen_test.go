@@ -9,85 +9,24 @@ import (
 	"lotdrawer/api"
 	"lotdrawer/fen"
 	"lotdrawer/pooltest"
+	"lotdrawer/weighttest"
 )
 
 const maxWeight = 1 << 30
 
-// same returns n equal weights.
-func same(weight, n int) []int {
-	return slices.Repeat([]int{weight}, n)
-}
-
-// scattered returns n weights without a pattern, each below limit.
-func scattered(seed uint64, n, limit int) []int {
-	weights := make([]int, n)
-	for i := range weights {
-		seed = seed*6364136223846793005 + 1442695040888963407
-		weights[i] = int(seed>>32) % limit
-	}
-	return weights
-}
-
 // each calls f with every list of up to 5 weights below 4, and of up to 3 weights below 7.
 func each(f func(weights []int)) {
 	for n := range 6 {
-		pooltest.Choices(same(4, n), f)
+		pooltest.Choices(weighttest.Same(4, n), f)
 	}
 	for n := range 4 {
-		pooltest.Choices(same(7, n), f)
+		pooltest.Choices(weighttest.Same(7, n), f)
 	}
 }
 
 // many returns long lists of weights, and those with the largest weights.
 func many() [][]int {
-	l := [][]int{
-		same(0, 400),
-		same(1, 400),
-		same(maxWeight, 400),
-		append(same(0, 399), maxWeight),
-		append([]int{maxWeight}, same(0, 399)...),
-		append(same(maxWeight, 399), 0),
-		append([]int{0}, same(maxWeight, 399)...),
-		pooltest.Span(0, 400),
-	}
-	for i, limit := range []int{2, 3, 10, 1000, maxWeight + 1} {
-		for _, n := range []int{1, 2, 7, 8, 9, 255, 256, 257, 399, 400} {
-			l = append(l, scattered(uint64(1000*i+n), n, limit))
-		}
-	}
-	return l
-}
-
-// total returns the sum of all weights.
-func total(weights []int) int {
-	sum := 0
-	for _, weight := range weights {
-		sum += weight
-	}
-	return sum
-}
-
-// wrong is lists of weights that every function refuses.
-var wrong = []struct {
-	what    string
-	weights []int
-}{
-	{"below 0", []int{-1}},
-	{"the first below 0", []int{-1, 2, 3}},
-	{"the last below 0", []int{2, 3, -1}},
-	{"below 0 although the sum isn't", []int{3, -1, 3}},
-	{"the least", []int{1, math.MinInt, 1}},
-	{"too large", []int{maxWeight + 1}},
-	{"the first too large", []int{maxWeight + 1, 0, 0}},
-	{"the last too large", []int{0, 0, maxWeight + 1}},
-	{"the largest", []int{1, math.MaxInt, 1}},
-	{"a sum that would overflow", []int{math.MaxInt, math.MaxInt, 3}},
-	{"too many", same(1, 401)},
-	{"too many zeros", same(0, 401)},
-	{"too many by far", same(1, 1000)},
-	{"the first of 400 below 0", append([]int{-1}, same(1, 399)...)},
-	{"the last of 400 too large", append(same(0, 399), maxWeight+1)},
-	{"too many, one of them too large", append(same(0, 400), maxWeight+1)},
+	return append(weighttest.Many(maxWeight), weighttest.Same(0, 400))
 }
 
 func TestSums(t *testing.T) {
@@ -107,16 +46,16 @@ func TestSums(t *testing.T) {
 		{"the last 0", []int{3, 1, 0}, []int{0, 3, 4, 4}},
 		{"only zeros", []int{0, 0, 0}, []int{0, 0, 0, 0}},
 		{"falling", []int{5, 4, 3, 2, 1}, []int{0, 5, 9, 12, 14, 15}},
-		{"the most weights", same(1, 400), pooltest.Span(0, 401)},
+		{"the most weights", weighttest.Same(1, 400), pooltest.Span(0, 401)},
 	} {
 		got, errno := fen.Sums(c.weights)
 		if !slices.Equal(got, c.want) || errno != api.OK {
 			t.Errorf("%s: got %v and error %d, want %v", c.what, got, errno, c.want)
 		}
 	}
-	for _, c := range wrong {
-		if got, errno := fen.Sums(c.weights); len(got) != 0 || errno != api.ErrRange {
-			t.Errorf("%s: got %v and error %d, want error %d", c.what, got, errno, api.ErrRange)
+	for _, c := range weighttest.Invalid(maxWeight) {
+		if got, errno := fen.Sums(c.Weights); len(got) != 0 || errno != api.ErrRange {
+			t.Errorf("%s: got %v and error %d, want error %d", c.What, got, errno, api.ErrRange)
 		}
 	}
 }
@@ -129,7 +68,7 @@ func checkSums(t *testing.T, weights []int) {
 		t.Fatalf("%v: got %v and error %d", weights, sums, errno)
 	}
 	for k, sum := range sums {
-		if want := total(weights[:k]); sum != want {
+		if want := weighttest.Total(weights[:k]); sum != want {
 			t.Errorf("%v: the sum of the first %d is %d, want %d", weights, k, sum, want)
 		}
 	}
@@ -161,15 +100,15 @@ func TestPick(t *testing.T) {
 		{"zeros last", []int{1, 0, 0}, 0, 0, api.OK},
 		{"the largest weight, its last number", []int{maxWeight, 1}, maxWeight - 1, 0, api.OK},
 		{"after the largest weight", []int{maxWeight, 1}, maxWeight, 1, api.OK},
-		{"the most weights", same(1, 400), 399, 399, api.OK},
-		{"the largest sum", same(maxWeight, 400), 400*maxWeight - 1, 399, api.OK},
-		{"only the last of 400", append(same(0, 399), 1), 0, 399, api.OK},
+		{"the most weights", weighttest.Same(1, 400), 399, 399, api.OK},
+		{"the largest sum", weighttest.Same(maxWeight, 400), 400*maxWeight - 1, 399, api.OK},
+		{"only the last of 400", append(weighttest.Same(0, 399), 1), 0, 399, api.OK},
 		{"at the sum", weights, 5, 0, api.ErrNone},
 		{"above the sum", weights, 6, 0, api.ErrNone},
 		{"the largest number", weights, math.MaxInt, 0, api.ErrNone},
 		{"below 0", weights, -1, 0, api.ErrNone},
 		{"the smallest number", weights, math.MinInt, 0, api.ErrNone},
-		{"at the largest sum", same(maxWeight, 400), 400 * maxWeight, 0, api.ErrNone},
+		{"at the largest sum", weighttest.Same(maxWeight, 400), 400 * maxWeight, 0, api.ErrNone},
 		{"no weights", nil, 0, 0, api.ErrNone},
 		{"no weights, not nil", []int{}, 0, 0, api.ErrNone},
 		{"no weights, below 0", nil, -1, 0, api.ErrNone},
@@ -181,10 +120,10 @@ func TestPick(t *testing.T) {
 			t.Errorf("%s: got %d and error %d, want %d and error %d", c.what, got, errno, c.want, c.errno)
 		}
 	}
-	for _, c := range wrong {
+	for _, c := range weighttest.Invalid(maxWeight) {
 		for _, n := range []int{0, 1, 2, -1, math.MinInt, 401, math.MaxInt} {
-			if got, errno := fen.Pick(c.weights, n); got != 0 || errno != api.ErrRange {
-				t.Errorf("%s, %d: got %d and error %d, want error %d", c.what, n, got, errno, api.ErrRange)
+			if got, errno := fen.Pick(c.Weights, n); got != 0 || errno != api.ErrRange {
+				t.Errorf("%s, %d: got %d and error %d, want error %d", c.What, n, got, errno, api.ErrRange)
 			}
 		}
 	}
@@ -192,11 +131,11 @@ func TestPick(t *testing.T) {
 
 // modelPick picks as the document words it.
 func modelPick(weights []int, n int) (int, api.Errno) {
-	if n < 0 || n >= total(weights) {
+	if n < 0 || n >= weighttest.Total(weights) {
 		return 0, api.ErrNone
 	}
 	for i := range weights {
-		if total(weights[:i+1]) > n {
+		if weighttest.Total(weights[:i+1]) > n {
 			return i, api.OK
 		}
 	}
@@ -214,13 +153,13 @@ func checkPick(t *testing.T, weights []int, n int) {
 
 func TestPickIsAsDescribed(t *testing.T) {
 	each(func(weights []int) {
-		for n := -2; n <= total(weights)+2; n++ {
+		for n := -2; n <= weighttest.Total(weights)+2; n++ {
 			checkPick(t, weights, n)
 		}
 	})
 	for _, weights := range many() {
 		for k := range weights {
-			sum := total(weights[:k+1])
+			sum := weighttest.Total(weights[:k+1])
 			checkPick(t, weights, sum-1)
 			checkPick(t, weights, sum)
 		}
@@ -231,7 +170,7 @@ func TestPickIsAsDescribed(t *testing.T) {
 func TestProportional(t *testing.T) {
 	each(func(weights []int) {
 		counts := make([]int, len(weights))
-		for n := range total(weights) {
+		for n := range weighttest.Total(weights) {
 			index, errno := fen.Pick(weights, n)
 			if errno != api.OK || index < 0 || index >= len(counts) {
 				t.Fatalf("%v, %d: got %d and error %d", weights, n, index, errno)
@@ -260,10 +199,10 @@ func TestDraw(t *testing.T) {
 		{"no numbers, not nil", weights, []int{}, nil, api.OK},
 		{"no numbers and no weights", nil, nil, nil, api.OK},
 		{"no numbers, only zeros", []int{0, 0}, nil, nil, api.OK},
-		{"the same number again and again", same(1, 4), []int{1, 1, 1, 0}, []int{1, 2, 3, 0}, api.OK},
-		{"from the last", same(1, 4), []int{3, 2, 1, 0}, []int{3, 2, 1, 0}, api.OK},
-		{"the largest weights", same(maxWeight, 3), []int{maxWeight, maxWeight, maxWeight - 1}, []int{1, 2, 0}, api.OK},
-		{"all of the most weights", same(maxWeight, 400), same(0, 400), pooltest.Span(0, 400), api.OK},
+		{"the same number again and again", weighttest.Same(1, 4), []int{1, 1, 1, 0}, []int{1, 2, 3, 0}, api.OK},
+		{"from the last", weighttest.Same(1, 4), []int{3, 2, 1, 0}, []int{3, 2, 1, 0}, api.OK},
+		{"the largest weights", weighttest.Same(maxWeight, 3), []int{maxWeight, maxWeight, maxWeight - 1}, []int{1, 2, 0}, api.OK},
+		{"all of the most weights", weighttest.Same(maxWeight, 400), weighttest.Same(0, 400), pooltest.Span(0, 400), api.OK},
 		{"at the sum", weights, []int{5}, nil, api.ErrNone},
 		{"at the sum of what is left", weights, []int{2, 2}, nil, api.ErrNone},
 		{"below the sum of all, but not of what is left", weights, []int{0, 3}, nil, api.ErrNone},
@@ -277,18 +216,18 @@ func TestDraw(t *testing.T) {
 		{"the first too large", weights, []int{5, 0, 0}, nil, api.ErrNone},
 		{"no weights", nil, []int{0}, nil, api.ErrNone},
 		{"only zeros", []int{0, 0}, []int{0}, nil, api.ErrNone},
-		{"one more than the most weights", same(1, 400), same(0, 401), nil, api.ErrNone},
-		{"many more than the most weights", same(1, 400), same(0, 100000), nil, api.ErrNone},
+		{"one more than the most weights", weighttest.Same(1, 400), weighttest.Same(0, 401), nil, api.ErrNone},
+		{"many more than the most weights", weighttest.Same(1, 400), weighttest.Same(0, 100000), nil, api.ErrNone},
 	} {
 		got, errno := fen.Draw(c.weights, c.nums)
 		if !slices.Equal(got, c.want) || errno != c.errno {
 			t.Errorf("%s: got %v and error %d, want %v and error %d", c.what, got, errno, c.want, c.errno)
 		}
 	}
-	for _, c := range wrong {
-		for _, nums := range [][]int{nil, {}, {0}, {0, 0}, {-1}, {math.MinInt}, {math.MaxInt}, {0, -1}, same(0, 402)} {
-			if got, errno := fen.Draw(c.weights, nums); len(got) != 0 || errno != api.ErrRange {
-				t.Errorf("%s, %v: got %v and error %d, want error %d", c.what, nums, got, errno, api.ErrRange)
+	for _, c := range weighttest.Invalid(maxWeight) {
+		for _, nums := range [][]int{nil, {}, {0}, {0, 0}, {-1}, {math.MinInt}, {math.MaxInt}, {0, -1}, weighttest.Same(0, 402)} {
+			if got, errno := fen.Draw(c.Weights, nums); len(got) != 0 || errno != api.ErrRange {
+				t.Errorf("%s, %v: got %v and error %d, want error %d", c.What, nums, got, errno, api.ErrRange)
 			}
 		}
 	}
@@ -325,9 +264,9 @@ func checkDraw(t *testing.T, weights, nums []int) {
 // TestDrawIsAsDescribed draws with every list of up to 3 numbers for up to 3 weights below 4, those that are too small or too large included.
 func TestDrawIsAsDescribed(t *testing.T) {
 	for n := range 4 {
-		pooltest.Choices(same(4, n), func(weights []int) {
+		pooltest.Choices(weighttest.Same(4, n), func(weights []int) {
 			for length := range 4 {
-				pooltest.Choices(same(total(weights)+2, length), func(draws []int) {
+				pooltest.Choices(weighttest.Same(weighttest.Total(weights)+2, length), func(draws []int) {
 					nums := make([]int, length)
 					for i, draw := range draws {
 						nums[i] = draw - 1
@@ -344,8 +283,8 @@ func TestDrawOfMany(t *testing.T) {
 	for i, weights := range many() {
 		left := slices.Clone(weights)
 		var nums []int
-		for seed := uint64(i); total(left) > 0; seed++ {
-			n := scattered(seed, 1, total(left))[0]
+		for seed := uint64(i); weighttest.Total(left) > 0; seed++ {
+			n := weighttest.Scattered(seed, 1, weighttest.Total(left))[0]
 			index, _ := modelPick(left, n)
 			left[index] = 0
 			nums = append(nums, n)
@@ -376,7 +315,7 @@ func TestDrawsAreProportional(t *testing.T) {
 					counts[fmt.Sprint(drawn)]++
 					return
 				}
-				for n := range total(without(weights, drawn)) {
+				for n := range weighttest.Total(without(weights, drawn)) {
 					count(append(slices.Clip(nums), n))
 				}
 			}
@@ -399,7 +338,7 @@ func without(weights, drawn []int) []int {
 func checkOrders(t *testing.T, weights []int, length int, counts map[string]int) {
 	t.Helper()
 	orders := 0
-	pooltest.Choices(same(len(weights), length), func(order []int) {
+	pooltest.Choices(weighttest.Same(len(weights), length), func(order []int) {
 		product := 1
 		for i, index := range order {
 			product *= weights[index]
@@ -432,9 +371,9 @@ func TestArguments(t *testing.T) {
 		{[]int{2, 0, 3}, []int{0, 4}},
 		{[]int{2, 0, 3}, []int{0, -1}},
 		{[]int{2, -1, 3}, []int{0, 0}},
-		{same(1, 400), same(0, 400)},
-		{same(1, 400), same(0, 401)},
-		{same(1, 401), same(0, 3)},
+		{weighttest.Same(1, 400), weighttest.Same(0, 400)},
+		{weighttest.Same(1, 400), weighttest.Same(0, 401)},
+		{weighttest.Same(1, 401), weighttest.Same(0, 3)},
 	} {
 		allWeights := slices.Concat(c.weights, []int{1, -1, 7})
 		allNums := slices.Concat(c.nums, []int{1, -1, 7})
